@@ -618,9 +618,11 @@ func TestPolyThroughOfInvalidValues(t *testing.T) {
 }
 
 // withSpare has the numbers of p in a slice with capacity left, so that a
-// function that appends to its argument is found out.
+// function that appends to its argument is found out, whatever it appends:
+// what is there is no element.
 func withSpare(p []int) []int {
-	return append(make([]int, 0, len(p)+impl.PolyMax+1), p...)
+	spare := slices.Repeat([]int{-9}, impl.PolyMax+1)
+	return slices.Concat(p, spare)[:len(p)]
 }
 
 func whole(p []int) []int {
