@@ -621,7 +621,7 @@ func TestPolyThroughOfInvalidValues(t *testing.T) {
 // function that appends to its argument is found out, whatever it appends:
 // what is there is no element.
 func withSpare(p []int) []int {
-	spare := slices.Repeat([]int{-9}, impl.PolyMax+1)
+	spare := slices.Repeat([]int{-9}, impl.ShareMax+1)
 	return slices.Concat(p, spare)[:len(p)]
 }
 
