@@ -946,21 +946,29 @@ func TestProofFunctionsChangeNoArgument(t *testing.T) {
 	})
 }
 
+// shareMemory says whether slices have memory in common, also beyond their
+// lengths. It overwrites them.
+func shareMemory(results [][]int) bool {
+	for i := range results {
+		var before [][]int
+		for _, r := range results {
+			before = append(before, slices.Clone(whole(r)))
+		}
+		overwrite(results[i])
+		for j, r := range results {
+			if j != i && !slices.Equal(whole(r), before[j]) {
+				return true
+			}
+		}
+	}
+	return false
+}
+
 // General rules: also beyond their lengths, and if the call fails.
 func TestProofResultsShareNoMemory(t *testing.T) {
 	forProvings(func(f proving, kind int, v []int, p impl.Proof) {
-		results := slices.Concat(f.call(kind, v, p), f.call(kind, v, p))
-		for i := range results {
-			var before [][]int
-			for _, r := range results {
-				before = append(before, slices.Clone(whole(r)))
-			}
-			overwrite(results[i])
-			for j, r := range results {
-				if j != i && !slices.Equal(whole(r), before[j]) {
-					t.Fatalf("results of %s(%d, %v, %v) share memory", f.name, kind, v, p)
-				}
-			}
+		if shareMemory(slices.Concat(f.call(kind, v, p), f.call(kind, v, p))) {
+			t.Fatalf("results of %s(%d, %v, %v) share memory", f.name, kind, v, p)
 		}
 	})
 }
