@@ -1000,28 +1000,37 @@ func spread(c impl.Col, p impl.Part) (impl.Col, impl.Part) {
 	return withSum(withIds(c, withSpare(c.Ids)), withSpare(c.Sum)), withList(p, withSpare(p.List))
 }
 
+// faultWith is what a call does with its arguments that it must not do, or
+// nothing; what is beyond their lengths counts, too.
+func faultWith(args [][]int, call func() [][]int) string {
+	var before [][]int
+	for _, a := range args {
+		before = append(before, slices.Clone(whole(a)))
+	}
+	unchanged := func() bool {
+		return slices.EqualFunc(args, before, func(a, b []int) bool { return slices.Equal(whole(a), b) })
+	}
+	results := call()
+	if !unchanged() {
+		return "changes an argument"
+	}
+	for _, r := range results {
+		overwrite(r)
+	}
+	if !unchanged() {
+		return "returns memory of an argument"
+	}
+	return ""
+}
+
 // General rules: an argument keeps its elements and those beyond its length,
 // and no result has memory of an argument.
 func TestColFunctionsChangeNoArgument(t *testing.T) {
 	forCollectings(func(f collecting, c impl.Col, p impl.Part) {
 		given, share := spread(c, p)
 		args := [][]int{given.Sum, given.Ids, share.List}
-		var before [][]int
-		for _, a := range args {
-			before = append(before, slices.Clone(whole(a)))
-		}
-		unchanged := func() bool {
-			return slices.EqualFunc(args, before, func(a, b []int) bool { return slices.Equal(whole(a), b) })
-		}
-		results := f.call(given, share)
-		if !unchanged() {
-			t.Fatalf("%s of %v and %v changes an argument", f.name, c, p)
-		}
-		for _, r := range results {
-			overwrite(r)
-		}
-		if !unchanged() {
-			t.Fatalf("a result of %s of %v and %v shares memory with it", f.name, c, p)
+		if fault := faultWith(args, func() [][]int { return f.call(given, share) }); fault != "" {
+			t.Fatalf("%s of %v and %v %s", f.name, c, p, fault)
 		}
 	})
 }
@@ -1055,19 +1064,23 @@ func TestCollectorsOfOneCollectorAreApart(t *testing.T) {
 	})
 }
 
+// extendable says whether slices keep their elements when each is extended.
+func extendable(results [][]int) bool {
+	var before [][]int
+	for _, r := range results {
+		before = append(before, slices.Clone(r))
+	}
+	for _, r := range results {
+		_ = append(r, 9, 9, 9, 9)
+	}
+	return slices.EqualFunc(results, before, slices.Equal[[]int])
+}
+
 // General rules: the sum and the Ids of a result can both be extended.
 func TestSlicesOfCollectorsCanBeExtended(t *testing.T) {
 	forCollectings(func(f collecting, c impl.Col, p impl.Part) {
-		results := f.call(c, p)
-		var before [][]int
-		for _, r := range results {
-			before = append(before, slices.Clone(r))
-		}
-		for _, r := range results {
-			_ = append(r, 9, 9, 9, 9)
-		}
-		if !slices.EqualFunc(results, before, slices.Equal[[]int]) {
-			t.Fatalf("the results of %s of %v and %v become %v, not %v", f.name, c, p, results, before)
+		if results := f.call(c, p); !extendable(results) {
+			t.Fatalf("the results of %s of %v and %v become %v", f.name, c, p, results)
 		}
 	})
 }

@@ -692,26 +692,39 @@ func TestPartsTakeIsTheDecisionForBothAnswers(t *testing.T) {
 	})
 }
 
-// P67: calculated without this program; all others of these queries fail.
-func TestPartsTakeOfExamples(t *testing.T) {
-	for _, c := range []struct {
-		kind  int
-		val   int
-		seed  int
-		place int
-		at    []int
-		w     []int
-	}{
+// spoiltExample is a report to one element of whose first share 1 is added, with
+// all queries for which it is still accepted, calculated without this program.
+type spoiltExample struct {
+	kind  int
+	val   int
+	seed  int
+	place int
+	at    []int
+	w     []int
+}
+
+func spoiltExamples() []spoiltExample {
+	return []spoiltExample{
 		{1, 1, 5, 0, []int{6}, elements()}, {1, 1, 5, 1, nil, nil}, {1, 1, 5, 2, []int{28}, elements()}, {1, 1, 5, 5, nil, nil},
 		{2, 2, 77, 1, []int{5}, []int{0}}, {2, 2, 77, 2, []int{10, 16}, []int{0}}, {2, 2, 77, 5, []int{19}, elements()}, {2, 2, 77, 14, nil, nil},
 		{3, 5, 17, 1, nil, nil}, {3, 5, 17, 3, []int{21}, elements()}, {3, 5, 17, 11, nil, nil},
-	} {
-		a, b := reportOf(1, c.kind, c.val, c.seed)
+	}
+}
+
+// forSpoilt has both shares of each of them, at every query.
+func forSpoilt(id int, check func(a, b impl.Part, at, w int, want bool)) {
+	for _, c := range spoiltExamples() {
+		a, b := reportOf(id, c.kind, c.val, c.seed)
 		a.List[c.place] = (a.List[c.place] + 1) % 31
 		forQueries(c.kind, func(at, w int) {
-			takeIs(t, a, b, at, w, slices.Contains(c.at, at) && slices.Contains(c.w, w))
+			check(a, b, at, w, slices.Contains(c.at, at) && slices.Contains(c.w, w))
 		})
 	}
+}
+
+// P67
+func TestPartsTakeOfExamples(t *testing.T) {
+	forSpoilt(1, func(a, b impl.Part, at, w int, want bool) { takeIs(t, a, b, at, w, want) })
 }
 
 // P67: at the points of the vector, and at no points.
