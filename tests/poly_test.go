@@ -625,7 +625,7 @@ func withSpare(p []int) []int {
 	return slices.Concat(p, spare)[:len(p)]
 }
 
-func whole(p []int) []int {
+func whole[T any](p []T) []T {
 	return p[:cap(p)]
 }
 
