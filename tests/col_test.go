@@ -1002,13 +1002,13 @@ func spread(c impl.Col, p impl.Part) (impl.Col, impl.Part) {
 
 // faultWith is what a call does with its arguments that it must not do, or
 // nothing; what is beyond their lengths counts, too.
-func faultWith(args [][]int, call func() [][]int) string {
-	var before [][]int
+func faultWith[T int | string](args [][]T, call func() [][]T) string {
+	var before [][]T
 	for _, a := range args {
 		before = append(before, slices.Clone(whole(a)))
 	}
 	unchanged := func() bool {
-		return slices.EqualFunc(args, before, func(a, b []int) bool { return slices.Equal(whole(a), b) })
+		return slices.EqualFunc(args, before, func(a, b []T) bool { return slices.Equal(whole(a), b) })
 	}
 	results := call()
 	if !unchanged() {
@@ -1065,15 +1065,16 @@ func TestCollectorsOfOneCollectorAreApart(t *testing.T) {
 }
 
 // extendable says whether slices keep their elements when each is extended.
-func extendable(results [][]int) bool {
-	var before [][]int
+func extendable[T int | string](results [][]T) bool {
+	var before [][]T
 	for _, r := range results {
 		before = append(before, slices.Clone(r))
 	}
 	for _, r := range results {
-		_ = append(r, 9, 9, 9, 9)
+		other := as[T](9)
+		_ = append(r, other, other, other, other)
 	}
-	return slices.EqualFunc(results, before, slices.Equal[[]int])
+	return slices.EqualFunc(results, before, slices.Equal[[]T])
 }
 
 // General rules: the sum and the Ids of a result can both be extended.

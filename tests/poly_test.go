@@ -3,6 +3,7 @@ package tests
 import (
 	"math"
 	"slices"
+	"strconv"
 	"testing"
 
 	"loop.example/scrutineer/impl"
@@ -617,11 +618,23 @@ func TestPolyThroughOfInvalidValues(t *testing.T) {
 	}
 }
 
-// withSpare has the numbers of p in a slice with capacity left, so that a
+// as is a number, or its text where slices are of texts.
+func as[T int | string](n int) T {
+	var out T
+	switch p := any(&out).(type) {
+	case *int:
+		*p = n
+	case *string:
+		*p = strconv.Itoa(n)
+	}
+	return out
+}
+
+// withSpare has the elements of p in a slice with capacity left, so that a
 // function that appends to its argument is found out, whatever it appends:
 // what is there is no element.
-func withSpare(p []int) []int {
-	spare := slices.Repeat([]int{-9}, impl.ShareMax+1)
+func withSpare[T int | string](p []T) []T {
+	spare := slices.Repeat([]T{as[T](-9)}, impl.ShareMax+1)
 	return slices.Concat(p, spare)[:len(p)]
 }
 

@@ -546,9 +546,10 @@ func TestShareFunctionsChangeNoArgument(t *testing.T) {
 
 // overwrite is found out by whatever shares memory with v, even beyond v's
 // length.
-func overwrite(v []int) {
+func overwrite[T int | string](v []T) {
+	other := as[T](-7)
 	for i := range whole(v) {
-		whole(v)[i] = -7
+		whole(v)[i] = other
 	}
 }
 
